@@ -256,40 +256,40 @@ func tellSegment(t *testing.T, tree []impl.Segment, index int) {
 	}
 }
 
-func TestInvalidTrees(t *testing.T) {
+// invalidTrees returns lists of segments that are no tree: none, too many, and a tree of three of which one part is not allowed.
+func invalidTrees() [][]impl.Segment {
 	valid := []impl.Segment{{Name: "B", Size: 2, Parent: -1}, {Name: "A", Size: 1, Parent: 0}, {Name: "C", Size: 3, Parent: 1}}
-	if !impl.TreeValid(valid) {
-		t.Fatalf("TreeValid(%v)", valid)
+	lists := [][]impl.Segment{nil, {}, make([]impl.Segment, 1000)}
+	change := func(index int, s impl.Segment) {
+		bad := slices.Clone(valid)
+		bad[index] = s
+		lists = append(lists, bad)
 	}
-	checkInvalid(t, nil)
-	checkInvalid(t, []impl.Segment{})
-	for i := range valid {
+	for i, s := range valid {
 		for _, name := range []string{"", "I", "@", "a", "AB", "A ", "1", "é", "\xff", "\x00", "Ä"} {
-			bad := slices.Clone(valid)
-			bad[i].Name = name
-			checkInvalid(t, bad)
+			change(i, impl.Segment{Name: name, Size: s.Size, Parent: s.Parent})
 		}
 		for _, size := range []int{0, -1, 100, 101, 1 << 40, -1 << 63} {
-			bad := slices.Clone(valid)
-			bad[i].Size = size
-			checkInvalid(t, bad)
+			change(i, impl.Segment{Name: s.Name, Size: size, Parent: s.Parent})
 		}
 		for _, parent := range []int{-2, 2, 3, 8, 1<<63 - 1, -1 << 63} {
-			bad := slices.Clone(valid)
-			bad[i].Parent = parent
-			checkInvalid(t, bad)
+			change(i, impl.Segment{Name: s.Name, Size: s.Size, Parent: parent})
 		}
-		for j := range valid[:i] {
-			bad := slices.Clone(valid)
-			bad[i].Name = bad[j].Name
-			checkInvalid(t, bad)
+		for _, other := range valid[:i] {
+			change(i, impl.Segment{Name: other.Name, Size: s.Size, Parent: s.Parent})
 		}
 	}
-	nine := mustParse(t, "A1(B1,C1,D1,E1,F1,G1,H1)")
 	for _, name := range []string{"A", "H", "I"} {
-		checkInvalid(t, append(slices.Clone(nine), impl.Segment{Name: name, Size: 1, Parent: 0}))
+		nine := append(treeWithParents(-1, 0, 0, 0, 0, 0, 0, 0), impl.Segment{Name: name, Size: 1, Parent: 0})
+		lists = append(lists, nine)
 	}
-	checkInvalid(t, make([]impl.Segment, 100000))
+	return lists
+}
+
+func TestInvalidTrees(t *testing.T) {
+	for _, tree := range invalidTrees() {
+		checkInvalid(t, tree)
+	}
 }
 
 // checkInvalid checks what each function returns for segments that are no tree.
