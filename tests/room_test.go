@@ -218,21 +218,29 @@ func TestRoomOfLargestTrees(t *testing.T) {
 	}
 }
 
-// TestRoomOfAllTrees checks all shapes of trees, with names and sizes in different orders, those of equal sizes among them.
-func TestRoomOfAllTrees(t *testing.T) {
-	fill := func(parents []int, name func(i int) byte, size func(i int) int) []impl.Segment {
+// treesOfShape returns trees of these parents, with names and sizes in different orders, those of equal sizes among them.
+func treesOfShape(parents []int) [][]impl.Segment {
+	fill := func(name func(i int) byte, size func(i int) int) []impl.Segment {
 		tree := make([]impl.Segment, len(parents))
 		for i, p := range parents {
 			tree[i] = impl.Segment{Name: string([]byte{name(i)}), Size: size(i), Parent: p}
 		}
 		return tree
 	}
+	return [][]impl.Segment{
+		treeWithParents(parents...),
+		fill(func(i int) byte { return byte('H' - i) }, func(i int) int { return 1 }),
+		fill(func(i int) byte { return "DGBHACFE"[i] }, func(i int) int { return []int{2, 7, 1, 8, 2, 8, 1, 5}[i] }),
+		fill(func(i int) byte { return "CAFEHBDG"[i] }, func(i int) int { return len(parents) - i }),
+	}
+}
+
+func TestRoomOfAllTrees(t *testing.T) {
 	for n := 1; n <= impl.MaxSegments; n++ {
 		for _, parents := range preorders(n) {
-			tellRoom(t, treeWithParents(parents...))
-			tellRoom(t, fill(parents, func(i int) byte { return byte('H' - i) }, func(i int) int { return 1 }))
-			tellRoom(t, fill(parents, func(i int) byte { return "DGBHACFE"[i] }, func(i int) int { return []int{2, 7, 1, 8, 2, 8, 1, 5}[i] }))
-			tellRoom(t, fill(parents, func(i int) byte { return "CAFEHBDG"[i] }, func(i int) int { return n - i }))
+			for _, tree := range treesOfShape(parents) {
+				tellRoom(t, tree)
+			}
 		}
 	}
 }
