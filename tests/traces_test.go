@@ -292,14 +292,19 @@ func TestTextsOfTraces(t *testing.T) {
 	}
 }
 
-func TestTextsOfNoTrace(t *testing.T) {
-	tree := mustParse(t, "A4(B3,C5(D1,E2))")
-	for _, trace := range []string{
+// textsOfNoTrace returns texts of at most 80 bytes that are no trace within a tree of A to E.
+func textsOfNoTrace() []string {
+	return []string{
 		"F", "H", "I", "@", "a", "b", "BF", "FB", "B(F)", "F(B)", "B(D)F", "B(DF)", "B(D(F))",
 		"(", ")", "()", "(B)", "(B", "B)", "B(", "B()", "B(D", "B(D))", "B((D))", "B(D)(D)", "B(D()", "B(D())", "B()D", "B(D)()", "B(C)D(", "B)(D", "()B", "((B))", "B(D)E)",
 		" ", "-", " B", "B ", "B C", "B,C", "B(D,E)", "B(D) C", "B(D)\n", "\n", "B\x00", "\x00", "\xff", "B\xff", "B(\xff)", "é", "B4", "B3(D1)", "4", "B[D]", "B{D}", "B<D>", "A4(B3,C5(D1,E2))",
 		"ＢＣ", "B（D）", strings.Repeat("(", 80), strings.Repeat(")", 80), strings.Repeat("B(", 40), strings.Repeat("B(", 4) + strings.Repeat(")", 4),
-	} {
+	}
+}
+
+func TestTextsOfNoTrace(t *testing.T) {
+	tree := mustParse(t, "A4(B3,C5(D1,E2))")
+	for _, trace := range textsOfNoTrace() {
 		checkNoTrace(t, tree, trace)
 	}
 }
