@@ -618,13 +618,18 @@ func TestSinglePairs(t *testing.T) {
 	}
 }
 
+// textsOfNoPair returns texts that are no pair within a tree of the segments from A to E.
+func textsOfNoPair() []string {
+	return []string{
+		"", "A", "E", "F", "AF", "FA", "FF", "EF", "HA", "AH", "AI", "IA", "A@", "@A", "Aa", "aA", "ab", "ABC", "ABAB", "AAA", "A B", "AB ", " AB", " A", "A ", "  ", "A-B", "A-", "-A", "AB\n", "\n\n",
+		"\x00\x00", "A\x00", "\x00A", "AB\x00", "\xff\xff", "A\xff", "\xffA", "é", "Aé", "éA", "ＡＢ", "(A", "A(", "A)", "A(B)", "A4", "4A", "A,", ",A", "AB,AC", "AB AC", strings.Repeat("AB", 500000), strings.Repeat("A", 1000000),
+	}
+}
+
 // TestTextsOfNoPair checks each text alone, and where it stands in order among pairs.
 func TestTextsOfNoPair(t *testing.T) {
 	tree := mustParse(t, "A4(B3,C5(D1,E2))")
-	for _, bad := range []string{
-		"", "A", "E", "F", "AF", "FA", "FF", "EF", "HA", "AH", "AI", "IA", "A@", "@A", "Aa", "aA", "ab", "ABC", "ABAB", "AAA", "A B", "AB ", " AB", " A", "A ", "  ", "A-B", "A-", "-A", "AB\n", "\n\n",
-		"\x00\x00", "A\x00", "\x00A", "AB\x00", "\xff\xff", "A\xff", "\xffA", "é", "Aé", "éA", "ＡＢ", "(A", "A(", "A)", "A(B)", "A4", "4A", "A,", ",A", "AB,AC", "AB AC", strings.Repeat("AB", 500000), strings.Repeat("A", 1000000),
-	} {
+	for _, bad := range textsOfNoPair() {
 		checkNoGraph(t, tree, []string{bad})
 		among := []string{"AB", "AC", "BD", bad}
 		slices.Sort(among)
@@ -641,19 +646,26 @@ func TestTextsOfNoPair(t *testing.T) {
 	}
 }
 
-func TestPairsTwiceAndOutOfOrder(t *testing.T) {
-	tree := mustParse(t, "A4(B3,C5(D1,E2))")
+// pairsOutOfOrder returns pairs within a tree of the segments from A to E that stand twice or out of order.
+func pairsOutOfOrder(tree []impl.Segment) [][]string {
+	var lists [][]string
 	for _, pairs := range []string{"AB AB", "AA AA", "AC AB", "BA AB", "EE AA", "AB AC AB", "AB AC AC", "AB AB AC", "AB BC BA", "AC AB BC", "AB BA AC", "BC AB AC", "AB AC BA AD"} {
-		checkNoGraph(t, tree, strings.Fields(pairs))
+		lists = append(lists, strings.Fields(pairs))
 	}
 	valid := allPairs(tree)[:impl.MaxPairs]
 	for i := range valid[1:] {
-		swapped := slices.Clone(valid)
+		swapped, twice := slices.Clone(valid), slices.Clone(valid)
 		swapped[i], swapped[i+1] = swapped[i+1], swapped[i]
-		checkNoGraph(t, tree, swapped)
-		twice := slices.Clone(valid)
 		twice[i] = twice[i+1]
-		checkNoGraph(t, tree, twice)
+		lists = append(lists, swapped, twice)
+	}
+	return lists
+}
+
+func TestPairsTwiceAndOutOfOrder(t *testing.T) {
+	tree := mustParse(t, "A4(B3,C5(D1,E2))")
+	for _, pairs := range pairsOutOfOrder(tree) {
+		checkNoGraph(t, tree, pairs)
 	}
 	// In the order of the tree, which is not that of the alphabet.
 	checkNoGraph(t, mustParse(t, "D4(H3(A1,B1(C9)),E5(F1,G2))"), []string{"DH", "DE"})
